@@ -1,0 +1,119 @@
+package concord_test
+
+import (
+	"math"
+	"math/rand"
+	"slices"
+	"strings"
+	"testing"
+
+	"concord/api"
+	"concord/concord"
+)
+
+// step is a step and the answer that is asked for.
+type step struct {
+	op   api.Op
+	want api.Answer
+}
+
+func begin(number int) step {
+	return step{api.Op{Kind: api.Begin}, api.Answer{Number: number}}
+}
+
+func put(t int, key, value string) step {
+	return step{api.Op{Kind: api.Put, T: t, Key: key, Value: value}, api.Answer{}}
+}
+
+func del(t int, key string) step {
+	return step{api.Op{Kind: api.Del, T: t, Key: key}, api.Answer{}}
+}
+
+func drop(t int) step {
+	return step{api.Op{Kind: api.Drop, T: t}, api.Answer{}}
+}
+
+func found(t int, key, value string) step {
+	return step{api.Op{Kind: api.Get, T: t, Key: key}, api.Answer{Found: true, Value: value}}
+}
+
+func missing(t int, key string) step {
+	return step{api.Op{Kind: api.Get, T: t, Key: key}, api.Answer{}}
+}
+
+// scan takes the items as key and value by turns.
+func scan(t int, prefix string, texts ...string) step {
+	var items []api.Item
+	for pair := range slices.Chunk(texts, 2) {
+		items = append(items, api.Item{Key: pair[0], Value: pair[1]})
+	}
+	return step{api.Op{Kind: api.Scan, T: t, Key: prefix}, api.Answer{Items: items}}
+}
+
+// refused is a step that is answered with an error and nothing else.
+func refused(op api.Op, code api.Errno) step {
+	return step{op, api.Answer{Code: code}}
+}
+
+func same(a, b api.Answer) bool {
+	return a.Code == b.Code && a.Number == b.Number && a.Found == b.Found && a.Value == b.Value &&
+		slices.Equal(a.Items, b.Items) && slices.Equal(a.Done, b.Done) && slices.Equal(a.Sums, b.Sums)
+}
+
+func script(steps []step) []api.Op {
+	var ops []api.Op
+	for _, s := range steps {
+		ops = append(ops, s.op)
+	}
+	return ops
+}
+
+// check runs the steps as one script.
+func check(t *testing.T, steps ...step) {
+	t.Helper()
+	answers := concord.Run(script(steps))
+	if len(answers) != len(steps) {
+		t.Fatalf("%d answers to %d steps", len(answers), len(steps))
+	}
+	for i, s := range steps {
+		if !same(answers[i], s.want) {
+			t.Errorf("step %d (%+v): %+v, want %+v", i, s.op, answers[i], s.want)
+		}
+	}
+}
+
+// wild makes a script of steps of the kinds from least to most, with texts
+// and numbers of few sorts, so that they meet often, and some that are wrong.
+func wild(source *rand.Rand, least, most, length int) []api.Op {
+	texts := []string{"", "a", "ab", "abc", "b", "\x00", "\xff", "a\x00", "a\xff", "é", strings.Repeat("k", api.MaxKey), strings.Repeat("k", api.MaxKey+1)}
+	values := []string{"", "x", "y", "\xff\x00", strings.Repeat("v", api.MaxValue), strings.Repeat("v", api.MaxValue+1)}
+	numbers := []int{0, -1, 100, math.MaxInt, math.MinInt}
+	ops := make([]api.Op, length)
+	for i := range ops {
+		ops[i] = api.Op{
+			Kind:  least + source.Intn(most-least+1),
+			T:     1 + source.Intn(10),
+			Key:   texts[source.Intn(len(texts))],
+			Value: values[source.Intn(len(values))],
+			N:     source.Intn(5),
+		}
+		if source.Intn(10) == 0 {
+			ops[i].T = numbers[source.Intn(len(numbers))]
+			ops[i].N = numbers[source.Intn(len(numbers))]
+		}
+		if source.Intn(4) == 0 {
+			ops[i].Kind = api.Begin
+		}
+	}
+	return ops
+}
+
+// wilds makes many scripts, the same ones each time.
+func wilds(least, most int) [][]api.Op {
+	source := rand.New(rand.NewSource(1))
+	var scripts [][]api.Op
+	for range 300 {
+		scripts = append(scripts, wild(source, least, most, 60))
+	}
+	return scripts
+}
