@@ -1,6 +1,7 @@
 package concord_test
 
 import (
+	"fmt"
 	"math"
 	"math/rand"
 	"slices"
@@ -48,6 +49,23 @@ func scan(t int, prefix string, texts ...string) step {
 		items = append(items, api.Item{Key: pair[0], Value: pair[1]})
 	}
 	return step{api.Op{Kind: api.Scan, T: t, Key: prefix}, api.Answer{Items: items}}
+}
+
+func commit(t int) step {
+	return step{api.Op{Kind: api.Commit, T: t}, api.Answer{}}
+}
+
+func flush(n int, done ...api.Decision) step {
+	return step{api.Op{Kind: api.Flush, N: n}, api.Answer{Done: done}}
+}
+
+// done is an OK, and refusal an error, told of a transaction.
+func done(number, time int) api.Decision {
+	return api.Decision{Number: number, Time: time}
+}
+
+func refusal(number int, code api.Errno) api.Decision {
+	return api.Decision{Number: number, Code: code}
 }
 
 // refused is a step that is answered with an error and nothing else.
@@ -116,4 +134,69 @@ func wilds(least, most int) [][]api.Op {
 		scripts = append(scripts, wild(source, least, most, 60))
 	}
 	return scripts
+}
+
+// lively makes a script whose transactions are mostly open ones and get to
+// their commit; what is open is asked for on the way. It goes on from the
+// steps that it is given.
+func lively(source *rand.Rand, ops []api.Op, length int) []api.Op {
+	kinds := []int{api.Begin, api.Begin, api.Get, api.Get, api.Get, api.Scan, api.Put, api.Put, api.Put, api.Put, api.Put, api.Put, api.Put, api.Del, api.Drop, api.Commit, api.Commit, api.Flush, api.Flush}
+	keys := []string{"a", "ab", "abc", "b", "ba", "c", "\x00", "\xff", "\xffa", "d", "e", "f"}
+	counts := []int{0, 1, 1, 2, 3, api.MaxFlush, api.MaxFlush + 1, -1}
+	for len(ops) < length {
+		h := history{ops, concord.Run(ops)}
+		numbers := append(h.open(), last(h.answers)+1)
+		for range 8 {
+			op := api.Op{
+				Kind:  kinds[source.Intn(len(kinds))],
+				T:     numbers[source.Intn(len(numbers))],
+				Key:   keys[source.Intn(len(keys))],
+				Value: strings.Repeat("v", source.Intn(4)),
+				N:     counts[source.Intn(len(counts))],
+			}
+			if op.Kind == api.Scan {
+				op.Key = op.Key[:source.Intn(len(op.Key)+1)]
+			}
+			ops = append(ops, op)
+		}
+	}
+	return ops
+}
+
+// last is the greatest time that was told.
+func last(answers []api.Answer) int {
+	now := 0
+	for _, answer := range answers {
+		now = max(now, answer.Number)
+		for _, d := range answer.Done {
+			now = max(now, d.Time)
+		}
+	}
+	return now
+}
+
+// livelies makes many scripts, the same ones each time; in some there is
+// little room left.
+func livelies() [][]api.Op {
+	source := rand.New(rand.NewSource(2))
+	var scripts [][]api.Op
+	for range 30 {
+		scripts = append(scripts, lively(source, nil, 600), lively(source, script(filling(1, 8, 11)), 400))
+	}
+	return scripts
+}
+
+// filling has so many transactions, from a number on, each of which writes so
+// many keys and is committed at once.
+func filling(from, transactions, keys int) []step {
+	var steps []step
+	for i := range transactions {
+		number := from + 2*i
+		steps = append(steps, begin(number))
+		for k := range keys {
+			steps = append(steps, put(number, fmt.Sprint("k", k), fmt.Sprint(number)))
+		}
+		steps = append(steps, commit(number), flush(1, done(number, number+1)))
+	}
+	return steps
 }

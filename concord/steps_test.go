@@ -7,7 +7,6 @@ import (
 	"testing"
 
 	"concord/api"
-	"concord/concord"
 )
 
 var (
@@ -151,84 +150,4 @@ func TestP3NoSuchKind(t *testing.T) {
 			refused(api.Op{Kind: kind, T: 9, Key: noKey, Value: noValue, N: -1}, api.ErrKind),
 			found(1, "a", "x"), begin(2))
 	}
-}
-
-// TestP3AgainstHistory looks each answer up in the steps and answers ahead.
-func TestP3AgainstHistory(t *testing.T) {
-	for _, ops := range wilds(api.Begin, api.Drop) {
-		answers := concord.Run(ops)
-		for i := range ops {
-			if want := looked(ops[:i], answers[:i], ops[i]); !same(answers[i], want) {
-				t.Fatalf("step %d of %+v: %+v, want %+v", i, ops, answers[i], want)
-			}
-		}
-	}
-}
-
-// looked is the answer to a step of P3, by what went ahead of it.
-func looked(ops []api.Op, answers []api.Answer, op api.Op) api.Answer {
-	open, last := opened(ops, answers)
-	named := slices.Contains(open, op.T)
-	noKey := len(op.Key) == 0 || len(op.Key) > 8
-	switch {
-	case op.Kind == api.Begin && len(open) == 6:
-		return api.Answer{Code: api.ErrMany}
-	case op.Kind == api.Begin:
-		return api.Answer{Number: last + 1}
-	case !named:
-		return api.Answer{Code: api.ErrNone}
-	case op.Kind == api.Scan:
-		return api.Answer{Items: listed(ops, answers, op)}
-	case op.Kind != api.Drop && noKey:
-		return api.Answer{Code: api.ErrKey}
-	case op.Kind == api.Put && len(op.Value) > 20:
-		return api.Answer{Code: api.ErrValue}
-	case op.Kind == api.Get:
-		value, ok := written(ops, answers, op.T, op.Key)
-		return api.Answer{Found: ok, Value: value}
-	}
-	return api.Answer{}
-}
-
-// opened tells the numbers of the open transactions, and the last number.
-func opened(ops []api.Op, answers []api.Answer) (open []int, last int) {
-	for i, op := range ops {
-		switch {
-		case answers[i].Code != api.OK:
-		case op.Kind == api.Begin:
-			last = answers[i].Number
-			open = append(open, last)
-		case op.Kind == api.Drop:
-			open = slices.DeleteFunc(open, func(number int) bool { return number == op.T })
-		}
-	}
-	return open, last
-}
-
-// written looks from behind for what a transaction wrote.
-func written(ops []api.Op, answers []api.Answer, number int, key string) (string, bool) {
-	for i, op := range slices.Backward(ops) {
-		writes := op.Kind == api.Put || op.Kind == api.Del
-		if writes && answers[i].Code == api.OK && op.T == number && op.Key == key {
-			if op.Kind == api.Del {
-				return "", false
-			}
-			return op.Value, true
-		}
-	}
-	return "", false
-}
-
-// listed asks for each key that ever was named.
-func listed(ops []api.Op, answers []api.Answer, scan api.Op) []api.Item {
-	var items []api.Item
-	for _, op := range ops {
-		value, ok := written(ops, answers, scan.T, op.Key)
-		item := api.Item{Key: op.Key, Value: value}
-		if ok && strings.HasPrefix(op.Key, scan.Key) && !slices.Contains(items, item) {
-			items = append(items, item)
-		}
-	}
-	slices.SortFunc(items, func(a, b api.Item) int { return slices.Compare([]byte(a.Key), []byte(b.Key)) })
-	return items
 }

@@ -3,22 +3,32 @@ package player
 
 import (
 	"concord/api"
+	"concord/clock"
+	"concord/oracle"
+	"concord/queue"
 	"concord/store"
 	"concord/transaction"
 )
 
 // Player has all that lasts from step to step.
 type Player struct {
-	clock int
-	store *store.Store
-	open  map[int]*transaction.Transaction
+	clock  *clock.Clock
+	store  *store.Store
+	oracle *oracle.Oracle
+	queue  *queue.Queue
+	// The queued ones too.
+	open map[int]*transaction.Transaction
 }
 
 // New is a player ahead of its first step.
 func New() *Player {
+	times, base := &clock.Clock{}, store.New()
 	return &Player{
-		store: store.New(),
-		open:  map[int]*transaction.Transaction{},
+		clock:  times,
+		store:  base,
+		oracle: oracle.New(times, base),
+		queue:  queue.New(),
+		open:   map[int]*transaction.Transaction{},
 	}
 }
 
@@ -47,6 +57,10 @@ func (p *Player) step(op api.Op) api.Answer {
 		return p.del(op)
 	case api.Drop:
 		return p.drop(op)
+	case api.Commit:
+		return p.commit(op)
+	case api.Flush:
+		return p.flush(op)
 	}
 	panic(api.ErrKind)
 }
@@ -55,7 +69,7 @@ func (p *Player) begin() api.Answer {
 	if len(p.open) >= api.MaxOpen {
 		panic(api.ErrMany)
 	}
-	start := p.takeTime()
+	start := p.clock.Take()
 	p.open[start] = transaction.New(start, p.store)
 	return api.Answer{Number: start}
 }
@@ -92,17 +106,34 @@ func (p *Player) drop(op api.Op) api.Answer {
 	return api.Answer{}
 }
 
-func (p *Player) takeTime() int {
-	p.clock++
-	return p.clock
+func (p *Player) commit(op api.Op) api.Answer {
+	p.queue.Put(p.named(op.T))
+	return api.Answer{}
 }
 
-// named is the open transaction with this number; every step that names one
-// asks here first, for no other error goes ahead of this one.
+func (p *Player) flush(op api.Op) api.Answer {
+	mustBeCount(op.N)
+	var done []api.Decision
+	for range op.N {
+		t, ok := p.queue.Take()
+		if !ok {
+			break
+		}
+		delete(p.open, t.Start())
+		done = append(done, p.oracle.Decide(t))
+	}
+	return api.Answer{Done: done}
+}
+
+// named is the open transaction with this number, if it isn't queued; every
+// step that names one asks here first, for no other error goes ahead of these.
 func (p *Player) named(number int) *transaction.Transaction {
 	t, ok := p.open[number]
 	if !ok {
 		panic(api.ErrNone)
+	}
+	if t.Queued {
+		panic(api.ErrQueued)
 	}
 	return t
 }
@@ -116,5 +147,11 @@ func mustBeKey(key string) {
 func mustBeValue(value string) {
 	if len(value) > api.MaxValue {
 		panic(api.ErrValue)
+	}
+}
+
+func mustBeCount(n int) {
+	if n < 0 || n > api.MaxFlush {
+		panic(api.ErrCount)
 	}
 }

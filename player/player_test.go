@@ -12,9 +12,9 @@ import (
 func TestP3ReadsTheStore(t *testing.T) {
 	p := New()
 	first := p.Play(api.Op{Kind: api.Begin}).Number
-	p.store.Add("a", p.takeTime(), store.Filled("x"))
+	p.store.Add("a", p.clock.Take(), store.Filled("x"))
 	second := p.Play(api.Op{Kind: api.Begin}).Number
-	p.store.Add("a", p.takeTime(), store.Cell{})
+	p.store.Add("a", p.clock.Take(), store.Cell{})
 	if first != 1 || second != 3 {
 		t.Fatalf("starts %d and %d, want 1 and 3", first, second)
 	}
@@ -47,8 +47,8 @@ func TestRefusedStepsChangeNothing(t *testing.T) {
 			t.Errorf("%+v was not refused", op)
 		}
 	}
-	if p.clock != api.MaxOpen || len(p.open) != api.MaxOpen {
-		t.Errorf("the clock is %d, %d are open", p.clock, len(p.open))
+	if p.clock.Now() != api.MaxOpen || len(p.open) != api.MaxOpen {
+		t.Errorf("the clock is %d, %d are open", p.clock.Now(), len(p.open))
 	}
 	if a := p.Play(api.Op{Kind: api.Scan, T: 1}); len(a.Items) != 0 {
 		t.Errorf("something was written: %+v", a)

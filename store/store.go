@@ -54,3 +54,12 @@ func (s *Store) Keys(prefix string) []string {
 	}
 	return keys
 }
+
+// Count tells how many versions there are, of all keys.
+func (s *Store) Count() int {
+	count := 0
+	for _, list := range s.versions {
+		count += len(list)
+	}
+	return count
+}

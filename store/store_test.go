@@ -42,3 +42,16 @@ func TestKeys(t *testing.T) {
 		}
 	}
 }
+
+func TestCount(t *testing.T) {
+	s := New()
+	for i, key := range []string{"b", "a", "ab", "a", "a"} {
+		if count := s.Count(); count != i {
+			t.Errorf("%d versions, want %d", count, i)
+		}
+		s.Add(key, i+1, Cell{Found: i%2 == 0})
+	}
+	if count := s.Count(); count != 5 {
+		t.Errorf("%d versions, want 5", count)
+	}
+}

@@ -12,6 +12,9 @@ import (
 
 // Transaction reads a store as it stood at its start.
 type Transaction struct {
+	// Queued: it waits for its decision.
+	Queued bool
+
 	start  int
 	base   *store.Store
 	writes map[string]store.Cell
@@ -29,6 +32,31 @@ func New(start int, base *store.Store) *Transaction {
 		keys:     map[string]struct{}{},
 		prefixes: map[string]struct{}{},
 	}
+}
+
+// Start is the time at which it began, and its number.
+func (t *Transaction) Start() int { return t.start }
+
+// Writes is the write set itself, for looking only.
+func (t *Transaction) Writes() map[string]store.Cell { return t.writes }
+
+// HasRead tells whether anything stands in the read set.
+func (t *Transaction) HasRead() bool {
+	return len(t.keys)+len(t.prefixes) > 0
+}
+
+// HasReadKey tells whether a key stands in the read set, itself or by one of
+// its prefixes.
+func (t *Transaction) HasReadKey(key string) bool {
+	if _, ok := t.keys[key]; ok {
+		return true
+	}
+	for end := range len(key) + 1 {
+		if _, ok := t.prefixes[key[:end]]; ok {
+			return true
+		}
+	}
+	return false
 }
 
 // Get reads a key.

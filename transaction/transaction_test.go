@@ -84,6 +84,60 @@ func TestP3WhatJoinsTheReadSet(t *testing.T) {
 	}
 }
 
+func TestP4HasRead(t *testing.T) {
+	tr := New(4, base())
+	tr.Put("a", "x")
+	tr.Del("b")
+	if tr.HasRead() || tr.HasReadKey("a") || tr.HasReadKey("b") {
+		t.Error("writes were taken for reads")
+	}
+	tr.Get("ab")
+	for key, want := range map[string]bool{"ab": true, "a": false, "abc": false, "b": false, "Ab": false} {
+		if tr.HasReadKey(key) != want {
+			t.Errorf("behind a GET of ab, %q read: %v", key, !want)
+		}
+	}
+	tr.Scan("p\xff")
+	for key, want := range map[string]bool{"p\xff": true, "p\xff\x00": true, "p\xffp\xffp\xffp": true, "p": false, "p\xfe": false, "q": false, "ap\xff": false} {
+		if tr.HasReadKey(key) != want {
+			t.Errorf("behind a SCAN, %q read: %v", key, !want)
+		}
+	}
+	tr.Scan("far too long for a key")
+	if tr.HasReadKey("f") || tr.HasReadKey("far too ") {
+		t.Error("a prefix of a prefix was taken for it")
+	}
+	tr.Scan("")
+	if !tr.HasReadKey("anything") {
+		t.Error("the empty prefix did not join")
+	}
+}
+
+func TestP4OneReadIsEnough(t *testing.T) {
+	got, scanned := New(4, base()), New(4, base())
+	got.Get("none")
+	scanned.Scan("")
+	if !got.HasRead() || !scanned.HasRead() {
+		t.Errorf("GET %v, SCAN %v", got.HasRead(), scanned.HasRead())
+	}
+}
+
+func TestP4Writes(t *testing.T) {
+	tr := New(4, base())
+	tr.Get("a")
+	if tr.Start() != 4 || len(tr.Writes()) != 0 || tr.Queued {
+		t.Errorf("start %d, writes %v, queued %v", tr.Start(), tr.Writes(), tr.Queued)
+	}
+	tr.Put("a", "x")
+	tr.Put("b", "y")
+	tr.Del("b")
+	tr.Put("a", "z")
+	want := map[string]store.Cell{"a": store.Filled("z"), "b": {}}
+	if !maps.Equal(tr.Writes(), want) {
+		t.Errorf("%v, want %v", tr.Writes(), want)
+	}
+}
+
 // TestP2TextsAreCopied writes into the bytes of the texts that went in.
 func TestP2TextsAreCopied(t *testing.T) {
 	bytes := []byte("keyvalue")
