@@ -54,13 +54,19 @@ func TestP1ManySteps(t *testing.T) {
 	for i := range 50000 {
 		steps = append(steps, begin(2+i), drop(2+i))
 	}
+	for i := range 50000 {
+		number := 50002 + 2*i
+		// The first FENCE ends the one from above, the first CLEAN finds nothing.
+		steps = append(steps, fence(max(1-i, 0)), begin(number), put(number, "a", "x"), commit(number), flush(1, done(number, number+1)),
+			clean(min(i, 1)), sums(1, 0, 0, 1, number-1, number+1))
+	}
 	check(t, steps...)
 }
 
 // TestP2Again also runs at the same time, so that nothing kept between calls
 // would go unseen.
 func TestP2Again(t *testing.T) {
-	for _, ops := range wilds(0, 12) {
+	for _, ops := range slices.Concat(wilds(0, 12), upkeeps()[:6]) {
 		first := concord.Run(ops)
 		others := make([][]api.Answer, 4)
 		var group sync.WaitGroup
@@ -88,7 +94,7 @@ func TestP2StepsAheadAlone(t *testing.T) {
 }
 
 func TestP2ScriptIsNotWrittenInto(t *testing.T) {
-	for _, ops := range wilds(0, 12) {
+	for _, ops := range slices.Concat(wilds(0, 12), upkeeps()[:6]) {
 		room := slices.Clone(ops)
 		half := len(room) / 2
 		concord.Run(room[:half])
@@ -122,7 +128,7 @@ func copied(answers []api.Answer) []api.Answer {
 }
 
 func TestP2ListsAreNewMemory(t *testing.T) {
-	for _, ops := range wilds(0, 12) {
+	for _, ops := range slices.Concat(wilds(0, 12), upkeeps()[:6]) {
 		answers := concord.Run(ops)
 		want := copied(answers)
 		for i := range answers {

@@ -58,11 +58,6 @@ func TestP4Example5(t *testing.T) {
 	check(t, around([]step{begin(1), missing(1, "a"), scan(1, "")}, others(2, 7), commit(1), flush(1, done(1, 1)))...)
 }
 
-func TestP4Example6(t *testing.T) {
-	check(t, begin(1), begin(2), begin(3), begin(4), commit(1), commit(2), commit(3),
-		refused(api.Op{Kind: api.Commit, T: 4}, api.ErrBusy))
-}
-
 func TestP4FullQueue(t *testing.T) {
 	busy := refused(api.Op{Kind: api.Commit, T: 4}, api.ErrBusy)
 	check(t, begin(1), begin(2), begin(3), begin(4), put(4, "a", "x"), commit(3), commit(1), commit(2),
@@ -323,7 +318,7 @@ func TestP2ListsOfDecisions(t *testing.T) {
 // the times, on a store that is empty at first.
 func TestP6OneBehindTheOther(t *testing.T) {
 	reads := 0
-	for _, ops := range append(livelies(), wilds(-1, 13)...) {
+	for _, ops := range slices.Concat(livelies(), upkeeps(), wilds(-1, 13)) {
 		answers := concord.Run(ops)
 		now := map[string]string{}
 		for _, d := range committed(answers) {

@@ -6,6 +6,7 @@ import (
 	"math/rand"
 	"slices"
 	"strings"
+	"sync"
 	"testing"
 
 	"concord/api"
@@ -66,6 +67,19 @@ func done(number, time int) api.Decision {
 
 func refusal(number int, code api.Errno) api.Decision {
 	return api.Decision{Number: number, Code: code}
+}
+
+// fence tells how many were open, and clean how many versions are gone.
+func fence(open int) step {
+	return step{api.Op{Kind: api.Fence}, api.Answer{Number: open}}
+}
+
+func clean(gone int) step {
+	return step{api.Op{Kind: api.Clean}, api.Answer{Number: gone}}
+}
+
+func sums(versions, open, queued, rows, low, clock int) step {
+	return step{api.Op{Kind: api.Sums}, api.Answer{Sums: []int{versions, open, queued, rows, low, clock}}}
 }
 
 // refused is a step that is answered with an error and nothing else.
@@ -138,14 +152,14 @@ func wilds(least, most int) [][]api.Op {
 
 // lively makes a script whose transactions are mostly open ones and get to
 // their commit; what is open is asked for on the way. It goes on from the
-// steps that it is given.
-func lively(source *rand.Rand, ops []api.Op, length int) []api.Op {
+// steps that it is given. Rare kinds come up now and then only.
+func lively(source *rand.Rand, ops []api.Op, length int, rare []int) []api.Op {
 	kinds := []int{api.Begin, api.Begin, api.Get, api.Get, api.Get, api.Scan, api.Put, api.Put, api.Put, api.Put, api.Put, api.Put, api.Put, api.Del, api.Drop, api.Commit, api.Commit, api.Flush, api.Flush}
 	keys := []string{"a", "ab", "abc", "b", "ba", "c", "\x00", "\xff", "\xffa", "d", "e", "f"}
 	counts := []int{0, 1, 1, 2, 3, api.MaxFlush, api.MaxFlush + 1, -1}
 	for len(ops) < length {
 		h := history{ops, concord.Run(ops)}
-		numbers := append(h.open(), last(h.answers)+1)
+		numbers := append(h.open(), h.clock()+1)
 		for range 8 {
 			op := api.Op{
 				Kind:  kinds[source.Intn(len(kinds))],
@@ -157,31 +171,35 @@ func lively(source *rand.Rand, ops []api.Op, length int) []api.Op {
 			if op.Kind == api.Scan {
 				op.Key = op.Key[:source.Intn(len(op.Key)+1)]
 			}
+			if len(rare) > 0 && source.Intn(12) == 0 {
+				op.Kind = rare[source.Intn(len(rare))]
+			}
 			ops = append(ops, op)
 		}
 	}
 	return ops
 }
 
-// last is the greatest time that was told.
-func last(answers []api.Answer) int {
-	now := 0
-	for _, answer := range answers {
-		now = max(now, answer.Number)
-		for _, d := range answer.Done {
-			now = max(now, d.Time)
-		}
-	}
-	return now
-}
+// livelies are lively scripts without FENCE, CLEAN and SUMS; drawn once, for
+// that takes long.
+var livelies = sync.OnceValue(func() [][]api.Op { return drawn(nil) })
 
-// livelies makes many scripts, the same ones each time; in some there is
-// little room left.
-func livelies() [][]api.Op {
+// upkeeps are lively scripts with all kinds of steps, FENCE least often, for
+// nothing outlives it.
+var upkeeps = sync.OnceValue(func() [][]api.Op {
+	return drawn(append(slices.Repeat([]int{api.Clean, api.Sums}, 7), api.Fence))
+})
+
+// drawn makes many scripts, the same ones each time; in some there is little
+// room left, and in some no CLEAN can make much.
+func drawn(rare []int) [][]api.Op {
 	source := rand.New(rand.NewSource(2))
 	var scripts [][]api.Op
 	for range 30 {
-		scripts = append(scripts, lively(source, nil, 600), lively(source, script(filling(1, 8, 11)), 400))
+		scripts = append(scripts,
+			lively(source, nil, 600, rare),
+			lively(source, script(filling(1, 8, 11)), 400, rare),
+			lively(source, script(filling(1, 1, 91)), 400, rare))
 	}
 	return scripts
 }

@@ -1,6 +1,7 @@
 package concord_test
 
 import (
+	"math"
 	"slices"
 	"strings"
 	"testing"
@@ -43,21 +44,54 @@ func TestP4AgainstHistory(t *testing.T) {
 	}
 }
 
+func TestP5AgainstHistory(t *testing.T) {
+	for _, ops := range wilds(api.Begin, api.Sums) {
+		checkHistory(t, ops)
+	}
+	for _, ops := range upkeeps() {
+		checkHistory(t, ops)
+	}
+}
+
 // TestLiveliesAreLively: the scripts that are drawn must come to each decision.
 func TestLiveliesAreLively(t *testing.T) {
-	count := map[api.Errno]int{}
-	for _, ops := range livelies() {
-		for _, answer := range concord.Run(ops) {
-			count[answer.Code]++
-			for _, d := range answer.Done {
-				count[d.Code]++
+	for what, scripts := range map[string][][]api.Op{"without upkeep": livelies(), "with upkeep": upkeeps()} {
+		count := map[api.Errno]int{}
+		for _, ops := range scripts {
+			for _, answer := range concord.Run(ops) {
+				count[answer.Code]++
+				for _, d := range answer.Done {
+					count[d.Code]++
+				}
+			}
+		}
+		for _, code := range []api.Errno{api.OK, api.ErrNone, api.ErrQueued, api.ErrMany, api.ErrBusy, api.ErrOld, api.ErrConflict, api.ErrRoom, api.ErrCount} {
+			if count[code] < 30 {
+				t.Errorf("%s: %d comes up %d times only", what, code, count[code])
 			}
 		}
 	}
-	for _, code := range []api.Errno{api.OK, api.ErrNone, api.ErrQueued, api.ErrMany, api.ErrBusy, api.ErrOld, api.ErrConflict, api.ErrRoom, api.ErrCount} {
-		if count[code] < 50 {
-			t.Errorf("%d comes up %d times only", code, count[code])
+}
+
+// TestUpkeepsAreLively: FENCE and CLEAN must find something to do.
+func TestUpkeepsAreLively(t *testing.T) {
+	fences, waited, cleans, shielded := 0, 0, 0, 0
+	for _, ops := range upkeeps() {
+		answers := concord.Run(ops)
+		for i, op := range ops {
+			h := history{ops[:i], answers[:i]}
+			switch {
+			case op.Kind == api.Fence && answers[i].Number > 0:
+				fences++
+				waited += len(h.queued())
+			case op.Kind == api.Clean && answers[i].Number > 0:
+				cleans++
+				shielded += len(needed(h.versions(), h.open())) - len(needed(h.versions(), nil))
+			}
 		}
+	}
+	if fences < 100 || waited < 100 || cleans < 100 || shielded < 100 {
+		t.Errorf("%d fences with open ones, %d of these queued; %d cleans that took something, and left %d to open ones", fences, waited, cleans, shielded)
 	}
 }
 
@@ -67,6 +101,14 @@ func (h history) answer(op api.Op) api.Answer {
 		return h.begin()
 	case api.Flush:
 		return h.flush(op)
+	case api.Fence:
+		return api.Answer{Number: len(h.open())}
+	case api.Clean:
+		all := h.versions()
+		return api.Answer{Number: len(all) - len(needed(all, h.open()))}
+	case api.Sums:
+		rows, low := h.rows()
+		return api.Answer{Sums: []int{len(h.versions()), len(h.open()), len(h.queued()), len(rows), low, h.clock()}}
 	}
 	if code := h.code(op); code != api.OK {
 		return api.Answer{Code: code}
@@ -85,7 +127,21 @@ func (h history) begin() api.Answer {
 	if len(h.open()) == 6 {
 		return api.Answer{Code: api.ErrMany}
 	}
-	return api.Answer{Number: last(h.answers) + 1}
+	return api.Answer{Number: h.clock() + 1}
+}
+
+// clock is the greatest time that was told; other numbers are counts.
+func (h history) clock() int {
+	now := 0
+	for i, op := range h.ops {
+		if op.Kind == api.Begin {
+			now = max(now, h.answers[i].Number)
+		}
+		for _, d := range h.answers[i].Done {
+			now = max(now, d.Time)
+		}
+	}
+	return now
 }
 
 // flush lays each decision behind the history, so that the next one finds it.
@@ -139,6 +195,8 @@ func (h history) open() []int {
 			for _, d := range h.answers[i].Done {
 				open = without(open, d.Number)
 			}
+		case op.Kind == api.Fence:
+			open = nil
 		}
 	}
 	return open
@@ -155,6 +213,8 @@ func (h history) queued() []int {
 			for _, d := range h.answers[i].Done {
 				queued = without(queued, d.Number)
 			}
+		case op.Kind == api.Fence:
+			queued = nil
 		}
 	}
 	return queued
@@ -232,41 +292,76 @@ func (h history) listed(number int, prefix string) []api.Item {
 func (h history) commits() []api.Decision {
 	var all []api.Decision
 	for _, answer := range h.answers {
-		for _, d := range answer.Done {
-			if d.Code == api.OK && len(h.written(d.Number)) > 0 {
-				all = append(all, d)
+		all = append(all, h.writers(answer.Done)...)
+	}
+	return all
+}
+
+func (h history) writers(all []api.Decision) []api.Decision {
+	return slices.DeleteFunc(slices.Clone(all), func(d api.Decision) bool {
+		return d.Code != api.OK || len(h.written(d.Number)) == 0
+	})
+}
+
+// row is one of the oracle's, or a version.
+type row struct {
+	time int
+	key  string
+}
+
+// rows does all commits again on a list that is kept in order, up from the
+// last FENCE.
+func (h history) rows() (rows []row, low int) {
+	for i, op := range h.ops {
+		if op.Kind == api.Fence {
+			rows, low = nil, history{h.ops[:i], h.answers[:i]}.clock()
+		}
+		for _, d := range h.writers(h.answers[i].Done) {
+			for _, key := range h.written(d.Number) {
+				rows = slices.DeleteFunc(rows, func(r row) bool { return r.key == key })
+				rows = append(rows, row{d.Time, key})
+			}
+			for len(rows) > 6 {
+				low = rows[0].time
+				rows = rows[1:]
+			}
+		}
+	}
+	return rows, low
+}
+
+// versions are all that were written, without those that a CLEAN took.
+func (h history) versions() []row {
+	var all []row
+	for i, op := range h.ops {
+		if op.Kind == api.Clean {
+			all = needed(all, history{h.ops[:i], h.answers[:i]}.open())
+		}
+		for _, d := range h.writers(h.answers[i].Done) {
+			for _, key := range h.written(d.Number) {
+				all = append(all, row{d.Time, key})
 			}
 		}
 	}
 	return all
 }
 
-type row struct {
-	time int
-	key  string
-}
-
-// rows does all commits again on a list that is kept in order.
-func (h history) rows() (rows []row, low int) {
-	for _, d := range h.commits() {
-		for _, key := range h.written(d.Number) {
-			rows = slices.DeleteFunc(rows, func(r row) bool { return r.key == key })
-			rows = append(rows, row{d.Time, key})
+// needed asks for each start, and for the end of time, which versions are
+// those that are seen then.
+func needed(all []row, starts []int) []row {
+	seen := map[row]int{}
+	for _, start := range append([]int{math.MaxInt}, starts...) {
+		newest := map[string]int{}
+		for _, v := range all {
+			if v.time <= start {
+				newest[v.key] = max(newest[v.key], v.time)
+			}
 		}
-		for len(rows) > 6 {
-			low = rows[0].time
-			rows = rows[1:]
+		for key, time := range newest {
+			seen[row{time, key}]++
 		}
 	}
-	return rows, low
-}
-
-func (h history) versions() int {
-	count := 0
-	for _, d := range h.commits() {
-		count += len(h.written(d.Number))
-	}
-	return count
+	return slices.DeleteFunc(slices.Clone(all), func(v row) bool { return seen[v] == 0 })
 }
 
 func (h history) decided(number int) api.Decision {
@@ -285,8 +380,8 @@ func (h history) decided(number int) api.Decision {
 		return refusal(number, api.ErrOld)
 	case conflict:
 		return refusal(number, api.ErrConflict)
-	case h.versions()+writes > 100:
+	case len(h.versions())+writes > 100:
 		return refusal(number, api.ErrRoom)
 	}
-	return done(number, last(h.answers)+1)
+	return done(number, h.clock()+1)
 }

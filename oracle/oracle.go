@@ -27,6 +27,12 @@ func New(times *clock.Clock, base *store.Store) *Oracle {
 	return &Oracle{clock: times, store: base, rows: map[string]int{}, low: times.Now()}
 }
 
+// Rows tells how many keys the oracle remembers.
+func (o *Oracle) Rows() int { return len(o.rows) }
+
+// Low is the time below which a start is too old for one that has read.
+func (o *Oracle) Low() int { return o.low }
+
 // Decide decides about a transaction. What refuses it panics with an Errno
 // ahead of the first change, so a refused one leaves nothing behind.
 func (o *Oracle) Decide(t *transaction.Transaction) (decision api.Decision) {

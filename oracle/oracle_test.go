@@ -41,15 +41,42 @@ func want(t *testing.T, what string, got, want api.Decision) {
 	}
 }
 
-func TestP4LowIsTheClockAtFirst(t *testing.T) {
+func TestP5LowIsTheClockAtFirst(t *testing.T) {
 	var times clock.Clock
-	if o := New(&times, store.New()); o.low != 0 {
-		t.Errorf("low is %d", o.low)
+	for now := range 5 {
+		if o := New(&times, store.New()); o.Low() != now || o.Rows() != 0 {
+			t.Errorf("at %d low is %d, %d rows", now, o.Low(), o.Rows())
+		}
+		times.Take()
 	}
-	times.Take()
-	times.Take()
-	if o := New(&times, store.New()); o.low != 2 || len(o.rows) != 0 {
-		t.Errorf("low is %d, rows %v", o.low, o.rows)
+}
+
+// TestP5StartAtLowOfANewOracle: whoever began at the clock is not too old; all
+// such ones are lost with the old oracle, so this edge lies here.
+func TestP5StartAtLowOfANewOracle(t *testing.T) {
+	for _, c := range []struct {
+		start int
+		code  api.Errno
+		time  int
+	}{{8, api.ErrOld, 0}, {9, api.OK, 10}} {
+		old := at(9)
+		old.rows["a"] = 9
+		o := New(old.clock, old.store)
+		want(t, "one that read", o.Decide(writer(o, c.start, []string{"a"}, []string{"b"})), api.Decision{Number: c.start, Code: c.code, Time: c.time})
+	}
+}
+
+func TestP5RowsAndLow(t *testing.T) {
+	o := at(9)
+	for i := range 10 {
+		rows, low := i, 0
+		if i > api.MaxRows {
+			rows, low = api.MaxRows, 9+i-api.MaxRows
+		}
+		if o.Rows() != rows || o.Low() != low {
+			t.Errorf("behind %d keys: %d rows and low %d, want %d and %d", i, o.Rows(), o.Low(), rows, low)
+		}
+		o.Decide(writer(o, 9, nil, []string{fmt.Sprint("k", i)}))
 	}
 }
 

@@ -2,6 +2,9 @@
 package player
 
 import (
+	"maps"
+	"slices"
+
 	"concord/api"
 	"concord/clock"
 	"concord/oracle"
@@ -22,14 +25,16 @@ type Player struct {
 
 // New is a player ahead of its first step.
 func New() *Player {
-	times, base := &clock.Clock{}, store.New()
-	return &Player{
-		clock:  times,
-		store:  base,
-		oracle: oracle.New(times, base),
-		queue:  queue.New(),
-		open:   map[int]*transaction.Transaction{},
-	}
+	p := &Player{clock: &clock.Clock{}, store: store.New()}
+	p.renew()
+	return p
+}
+
+// renew leaves the clock and the store as they are; all else begins anew.
+func (p *Player) renew() {
+	p.oracle = oracle.New(p.clock, p.store)
+	p.queue = queue.New()
+	p.open = map[int]*transaction.Transaction{}
 }
 
 // Play answers a step. What refuses it panics with an Errno ahead of the
@@ -61,6 +66,12 @@ func (p *Player) step(op api.Op) api.Answer {
 		return p.commit(op)
 	case api.Flush:
 		return p.flush(op)
+	case api.Fence:
+		return p.fence()
+	case api.Clean:
+		return p.clean()
+	case api.Sums:
+		return p.sums()
 	}
 	panic(api.ErrKind)
 }
@@ -123,6 +134,28 @@ func (p *Player) flush(op api.Op) api.Answer {
 		done = append(done, p.oracle.Decide(t))
 	}
 	return api.Answer{Done: done}
+}
+
+func (p *Player) fence() api.Answer {
+	lost := len(p.open)
+	p.renew()
+	return api.Answer{Number: lost}
+}
+
+func (p *Player) clean() api.Answer {
+	starts := slices.Collect(maps.Keys(p.open))
+	return api.Answer{Number: p.store.Clean(starts)}
+}
+
+func (p *Player) sums() api.Answer {
+	return api.Answer{Sums: []int{
+		p.store.Count(),
+		len(p.open),
+		p.queue.Count(),
+		p.oracle.Rows(),
+		p.oracle.Low(),
+		p.clock.Now(),
+	}}
 }
 
 // named is the open transaction with this number, if it isn't queued; every

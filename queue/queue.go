@@ -27,6 +27,9 @@ func (q *Queue) Put(t *transaction.Transaction) {
 	}
 }
 
+// Count tells how many wait.
+func (q *Queue) Count() int { return len(q.waiting) }
+
 // Take lets the first one go, if there is any.
 func (q *Queue) Take() (*transaction.Transaction, bool) {
 	select {

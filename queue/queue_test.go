@@ -23,6 +23,9 @@ func fill(t *testing.T, q *Queue, from int) {
 		if why := refusal(q, tr); why != nil || !tr.Queued {
 			t.Fatalf("the one at %d: refused with %v, queued %v", i, why, tr.Queued)
 		}
+		if q.Count() != i+1 {
+			t.Errorf("%d wait, want %d", q.Count(), i+1)
+		}
 	}
 }
 
@@ -33,6 +36,9 @@ func empty(t *testing.T, q *Queue, from int) {
 		if !ok || tr.Start() != from-i {
 			t.Fatalf("taken at %d: %v, %v, want %d", i, tr, ok, from-i)
 		}
+		if q.Count() != api.MaxQueue-i-1 {
+			t.Errorf("%d wait, want %d", q.Count(), api.MaxQueue-i-1)
+		}
 	}
 	if tr, ok := q.Take(); ok || tr != nil {
 		t.Errorf("taken from an empty queue: %v, %v", tr, ok)
@@ -41,7 +47,7 @@ func empty(t *testing.T, q *Queue, from int) {
 
 func TestP4FirstComeFirstGone(t *testing.T) {
 	q := New()
-	if _, ok := q.Take(); ok {
+	if _, ok := q.Take(); ok || q.Count() != 0 {
 		t.Error("a new queue is not empty")
 	}
 	for _, from := range []int{9, 30, 6} {

@@ -1,7 +1,10 @@
 // Package store keeps the versions of keys.
 package store
 
-import "strings"
+import (
+	"slices"
+	"strings"
+)
 
 // Cell is a value, or none.
 type Cell struct {
@@ -53,6 +56,32 @@ func (s *Store) Keys(prefix string) []string {
 		}
 	}
 	return keys
+}
+
+// Clean takes away the versions that are seen neither at one of these times nor
+// by anyone who is yet to begin, and tells how many those were.
+func (s *Store) Clean(times []int) int {
+	gone := 0
+	for _, key := range s.Keys("") {
+		list := s.versions[key]
+		kept := needed(list, times)
+		gone += len(list) - len(kept)
+		s.versions[key] = kept
+	}
+	return gone
+}
+
+// needed lists a key's versions that are still read. The last one always is,
+// for all who are yet to begin; a deletion too, since it hides those ahead.
+func needed(list []version, times []int) []version {
+	var kept []version
+	for i, v := range list {
+		isRead := func(time int) bool { return v.time <= time && time < list[i+1].time }
+		if i == len(list)-1 || slices.ContainsFunc(times, isRead) {
+			kept = append(kept, v)
+		}
+	}
+	return kept
 }
 
 // Count tells how many versions there are, of all keys.
